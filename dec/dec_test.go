@@ -292,6 +292,7 @@ func TestRefuses(t *testing.T) {
 		e api.Errno
 	}{
 		{make([]api.Slot, 65537), api.ErrMany},
+		{make([]api.Slot, 65536), api.ErrBad},
 		{[]api.Slot{{}}, api.ErrBad},
 		{[]api.Slot{right, {Lost: true}, full, {}}, api.ErrFull},
 		{[]api.Slot{right, {}, full}, api.ErrBad},

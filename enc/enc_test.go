@@ -188,6 +188,11 @@ func TestTurns(t *testing.T) {
 	if b, l, e := enc.All(c, make([]api.Turn, 65537)); e != api.ErrMany || len(b) != 0 || len(l) != 0 {
 		t.Error(e)
 	}
+	most := make([]api.Turn, 65536)
+	most[0].Pcm = [][]int{one(9, 99999), long(256)}
+	if b, l, e := enc.All(c, most); e != api.ErrArg || len(b) != 0 || len(l) != 0 {
+		t.Error(e)
+	}
 	if b, l, e := enc.All(c, nil); e != api.OK || len(b) != 0 || len(l) != 0 {
 		t.Error(e)
 	}

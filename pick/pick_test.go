@@ -123,8 +123,10 @@ func TestAttack(t *testing.T) {
 	if got, _ := pick.Attack(pcm); !got {
 		t.Error("one more")
 	}
-	if got, e := pick.Attack(slices.Repeat([]int{-32768}, 256)); got || e != api.OK {
-		t.Error(got, e)
+	for _, v := range []int{-32768, 32767} {
+		if got, e := pick.Attack(slices.Repeat([]int{v}, 256)); got || e != api.OK {
+			t.Error(v, got, e)
+		}
 	}
 	for _, n := range []int{0, 255, 257, 512} {
 		if got, e := pick.Attack(slices.Repeat([]int{99999}, n)); got || e != api.ErrMany {
@@ -644,6 +646,46 @@ func atMost(f api.Frame) bool {
 	return true
 }
 
+// TestFilters holds when lines have a filter, to the last bit: of lines that go on, or turn about, more than half.
+func TestFilters(t *testing.T) {
+	put := func(l ...int) []int { return append(l, make([]int, 256-len(l))...) }
+	for n, s := range []struct {
+		x    []int
+		coef int
+	}{
+		{put(), 0},
+		{put(1024), 0},
+		{put(1024, 1024), 0}, // twice 1 is 2, and not more
+		{put(1024, 1024, 1024), -2},
+		{put(-1024, 1024), 0},
+		{put(-1024, 1024, -1024), 2},
+		{put(1023, 1023, 1023, 1023), 0}, // each is 0
+		{put(2047, 1024, 1500), -2},
+		{put(-1, -1, -1), -2}, // each is -1
+		{put(-1024, -1024, 0, 5000, 0, -5000), 0},
+		{put(0, 0, 0, 0, 9000, 9000, 9000, 9000), 0}, // behind what is sent
+		{put(api.MaxLine, api.MaxLine, api.MaxLine, -api.MaxLine), 0},
+		{put(api.MaxLine, api.MaxLine, api.MaxLine, api.MaxLine), -2},
+		{put(-api.MaxLine, api.MaxLine, -api.MaxLine, api.MaxLine), 2},
+	} {
+		f, e := pick.Frame(api.Config{Chans: 1}, []api.Info{long(1)}, [][]int{s.x}, 1536)
+		if e != api.OK {
+			t.Fatal(n, e)
+		}
+		l := f.Chans[0].Tns[0]
+		if s.coef == 0 && len(l) != 0 || s.coef != 0 && (len(l) != 1 || l[0].Len != 1 || l[0].Order != 1 || l[0].Down || l[0].Fine || l[0].Coefs[0] != s.coef) {
+			t.Error(n, l)
+		}
+	}
+	short := api.Info{Seq: 2, Max: 5, Groups: []int{8}}
+	f, e := pick.Frame(api.Config{Chans: 1}, []api.Info{short}, [][]int{slices.Repeat([]int{5000}, 256)}, 1536)
+	for _, l := range f.Chans[0].Tns {
+		if e != api.OK || len(l) != 0 {
+			t.Error("short windows have filters", l, e)
+		}
+	}
+}
+
 // TestMiddle holds what is middle and side to the last size: twice as much is not below as much.
 func TestMiddle(t *testing.T) {
 	c := api.Config{Chans: 2}
@@ -657,6 +699,7 @@ func TestMiddle(t *testing.T) {
 		{[]int{400, 400}, []int{400, 400}, 2},
 		{[]int{300, 400}, []int{101, 400}, 2},
 		{[]int{300, 400}, []int{100, 400}, 1},
+		{[]int{301, 400}, []int{101, 400}, 2}, // 400 is below 402
 		{[]int{300, 400}, []int{-300, -400}, 0},
 		{[]int{0, 0}, []int{0, 0}, 0},
 	} {
@@ -691,7 +734,7 @@ func TestFrameRefuses(t *testing.T) {
 		budget int
 		e      api.Errno
 	}{
-		{api.Config{}, i, x, 0, api.ErrArg}, {api.Config{Chans: 3}, nil, nil, -1, api.ErrArg}, {api.Config{Rate: 12, Chans: 1}, i, x, 0, api.ErrArg}, {api.Config{Rate: -1, Chans: 1}, i, x, 0, api.ErrArg},
+		{api.Config{}, i, x, 0, api.ErrArg}, {api.Config{Chans: 3}, nil, nil, -1, api.ErrArg}, {api.Config{Rate: 12, Chans: 1}, nil, nil, 0, api.ErrArg}, {api.Config{Rate: -1, Chans: 1}, nil, nil, 0, api.ErrArg},
 		{c, nil, x, 0, api.ErrMany}, {c, i, nil, -1, api.ErrMany}, {c, ii, x, 0, api.ErrMany}, {c, i, xx, 0, api.ErrMany}, {two, i, xx, 0, api.ErrMany}, {two, ii, x, 0, api.ErrMany}, {c, []api.Info{{}, {}}, x, 0, api.ErrMany},
 		{c, []api.Info{{}}, [][]int{nil}, -1, api.ErrBad}, {two, []api.Info{long(1), long(23)}, xx, 0, api.ErrBad},
 		{c, i, [][]int{nil}, -1, api.ErrMany}, {two, ii, [][]int{one(256, 0, 1<<28), make([]int, 255)}, -1, api.ErrMany},

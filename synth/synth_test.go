@@ -296,6 +296,9 @@ func TestRefuses(t *testing.T) {
 	if pcm, e := synth.All(mono, make([]api.Frame, 65537)); e != api.ErrMany || len(pcm) != 0 {
 		t.Error(e)
 	}
+	if pcm, e := synth.All(mono, make([]api.Frame, 65536)); e != api.ErrBad || len(pcm) != 0 {
+		t.Error(e)
+	}
 	if pcm, e := synth.All(mono, []api.Frame{right, full, {}}); e != api.ErrFull || len(pcm) != 0 {
 		t.Error(e)
 	}

@@ -329,27 +329,51 @@ func first(day string) string {
 	return l[len(l)-1]
 }
 
-// TestMany holds P32.1 to the last byte of what may be told.
+// TestMany holds P32.1 to the last byte of what may be told: with as many frames as make what find tells fit, all but a few bytes, which "size" and "x" make up for.
 func TestMany(t *testing.T) {
-	// As many frames as make what find tells long, and as many finds as there is room for.
-	head := "config 0 2 1 3072\n" + strings.Repeat("still\n", 338)
-	told := tale.Tell(head + "find\n")
-	list := told[strings.LastIndex(strings.TrimSuffix(told, "\n"), "\n")+1:]
-	day := head + strings.Repeat("find\n", (4096-len(head))/5)
-	want := told[:len(told)-len(list)]
-	many := false
-	for range (4096 - len(head)) / 5 {
-		if len(want)+len(list) > 1<<20 {
-			want += "many\n"
-			many = true
-			break
+	const most = 1 << 20
+	config, frame, find := "config 0 2 1 3072\n", "still\n", "find\n"
+	told := strings.SplitAfter(tale.Tell(config+strings.Repeat(frame, 345)+find), "\n")
+	all := strings.Split(strings.TrimSuffix(told[346], "\n"), ",")
+	for n := 345; n > 320; n-- {
+		list := strings.Join(all[:n], ",") + "\n"
+		want := strings.Join(told[:n+1], "")
+		finds := (most - len(want)) / len(list)
+		want += strings.Repeat(list, finds)
+		size := tale.Tell(config + strings.Repeat(frame, n) + "size\n")
+		size = size[strings.LastIndex(strings.TrimSuffix(size, "\n"), "\n")+1:]
+		usages := 0
+		for (most-len(want)-6*usages)%len(size) != 0 && usages < 6 {
+			usages++
 		}
-		want += list
+		sizes := (most - len(want) - 6*usages) / len(size)
+		day := config + strings.Repeat(frame, n) + strings.Repeat(find, finds) + strings.Repeat("x\n", usages) + strings.Repeat("size\n", sizes)
+		want += strings.Repeat("usage\n", usages) + strings.Repeat(size, sizes)
+		if sizes < 0 || len(want) != most || len(day) > 4090 {
+			continue
+		}
+		if got := tale.Tell(day); got != want {
+			t.Error(len(got), "bytes, not all")
+		}
+		if got := tale.Tell(day + "x\n"); got != want+"many\n" {
+			t.Error(len(got), "bytes, one line too many")
+		}
+		if got := tale.Tell(day + "x\nx\n\n"); got != want+"many\n" {
+			t.Error(len(got), "bytes, two lines too many")
+		}
+		// One line more ahead, and the last one is beyond: one byte is as bad as many.
+		day = config + strings.Repeat(frame, n) + strings.Repeat(find, finds) + strings.Repeat("x\n", usages+1) + strings.Repeat("size\n", sizes)
+		want = strings.Replace(want, "usage\n", "usage\nusage\n", 1)
+		if usages == 0 {
+			want = want[:len(want)-sizes*len(size)] + "usage\n" + strings.Repeat(size, sizes)
+		}
+		for len(want) > most {
+			want = want[:strings.LastIndex(strings.TrimSuffix(want, "\n"), "\n")+1]
+		}
+		if got := tale.Tell(day); got != want+"many\n" {
+			t.Error(len(got), "bytes, the last line beyond")
+		}
+		return
 	}
-	if !many {
-		t.Fatal("the day is too short", len(list), len(want))
-	}
-	if got := tale.Tell(day); got != want {
-		t.Error(len(got), len(want), got[len(got)-10:])
-	}
+	t.Error("no day tells just as much as may be told")
 }

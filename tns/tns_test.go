@@ -251,7 +251,7 @@ func filters(k uint32, short bool) []api.Filter {
 	}
 	var out []api.Filter
 	for n := uint32(0); n < k%4; n++ {
-		out = append(out, newFilter(int(k*7+n*5)%(most+1)/int(1+k%3), int(k*5+n*3)%13, (k+n)%2 == 0, k%3 == 0, k*9+n))
+		out = append(out, newFilter(int(k*11+n*5)%(most+1)/int(1+k%3), int(k*5+n*3)%13, (k+n)%2 == 0, k%3 == 0, k*9+n))
 	}
 	if short && len(out) > 1 {
 		out = out[:1]
