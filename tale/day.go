@@ -32,26 +32,26 @@ type day struct {
 	played string
 }
 
-// line is what a line's first word stands for: how many numbers are behind it, and what it does with them.
-type line struct {
+// command is what a line's first word stands for: how many numbers are behind it, and what it does with them.
+type command struct {
 	many int
 	do   func(n []int) string
 }
 
-// lines are all that there are, by their first words.
-func (d *day) lines() map[string]any {
+// commands are all that there are, by their words.
+func (d *day) commands() map[string]any {
 	return map[string]any{
-		setting: line{4, d.configure},
-		"still": line{0, d.framed(d.still)},
-		"wave":  line{2, d.framed(d.wave)},
-		"noise": line{1, d.framed(d.noise)},
-		"zero":  line{1, d.framed(d.zero)},
-		"turn":  line{2, d.changed(d.turn)},
-		"drop":  line{2, d.changed(d.drop)},
-		"add":   line{2, d.changed(d.add)},
-		"size":  line{0, func([]int) string { return blanked(len(d.bytes)) }},
-		"find":  line{0, kept(&d.found, d.find)},
-		"play":  line{0, kept(&d.played, d.play)},
+		setting: command{4, d.configure},
+		"still": command{0, d.framed(d.still)},
+		"wave":  command{2, d.framed(d.wave)},
+		"noise": command{1, d.framed(d.noise)},
+		"zero":  command{1, d.framed(d.zero)},
+		"turn":  command{2, d.changed(d.turn)},
+		"drop":  command{2, d.changed(d.drop)},
+		"add":   command{2, d.changed(d.add)},
+		"size":  command{0, func([]int) string { return blanked(len(d.bytes)) }},
+		"find":  command{0, kept(&d.found, d.find)},
+		"play":  command{0, kept(&d.played, d.play)},
 	}
 }
 
