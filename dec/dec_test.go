@@ -8,141 +8,24 @@ import (
 
 	"reedpipe/adts"
 	"reedpipe/api"
-	"reedpipe/band"
 	"reedpipe/dec"
 	"reedpipe/enc"
-	"reedpipe/info"
 	"reedpipe/lane"
 	"reedpipe/lap"
 	"reedpipe/lose"
 	"reedpipe/raw"
+	"reedpipe/sample"
 	"reedpipe/sync"
 	"reedpipe/synth"
 )
 
-// dice are numbers without a plain pattern.
-type dice uint32
-
-func (d *dice) roll(n int) int {
-	*d = *d*1664525 + 1013904223
-	return int(*d>>8) % n
-}
-
-func (d *dice) windows(rate int) api.Info {
-	i := api.Info{Seq: uint8(d.roll(4)), Shape: uint8(d.roll(2)), Groups: []int{1}}
-	most, _ := band.Many(rate, i.Seq == api.Shorts)
-	i.Max = d.roll(most + 1)
-	if i.Seq == api.Shorts {
-		i.Groups = nil
-		for left := 8; left > 0; {
-			n := 1 + d.roll(left)
-			i.Groups = append(i.Groups, n)
-			left -= n
-		}
-	}
-	return i
-}
-
-var limits = []int{0, 1, 1, 2, 2, 4, 4, 7, 7, 12, 12, 8191, 0, 0}
-
-// record is one that may be, of these windows.
-func (d *dice) record(rate int, i api.Info) api.Chan {
-	c := api.Chan{Gain: d.roll(256), Info: i, Lines: make([]int, 256)}
-	step, noise := c.Gain, d.roll(512)
-	o, _ := band.Offsets(rate, i.Seq == api.Shorts)
-	w := 0
-	for _, many := range i.Groups {
-		var l []api.Section
-		var steps []int
-		for left := i.Max; left > 0; {
-			s := api.Section{Book: d.roll(13), Len: 1 + d.roll(left)}
-			if s.Book == 12 {
-				s.Book = 13
-			}
-			for b := i.Max - left; b < i.Max-left+s.Len; b++ {
-				switch s.Book {
-				case 0:
-					steps = append(steps, 0)
-				case 13:
-					noise = max(0, min(511, noise+d.roll(121)-60))
-					steps = append(steps, noise)
-				default:
-					step = max(0, min(255, step+d.roll(121)-60))
-					steps = append(steps, step)
-				}
-				for v := w; v < w+many; v++ {
-					for n := o[b]; n < o[b+1]; n++ {
-						c.Lines[32*v+n] = d.roll(2*limits[s.Book]+1) - limits[s.Book]
-					}
-				}
-			}
-			l, left = append(l, s), left-s.Len
-		}
-		c.Sections, c.Steps = append(c.Sections, l), append(c.Steps, steps)
-		w += many
-	}
-	for range w {
-		c.Tns = append(c.Tns, d.filters(i.Seq == api.Shorts))
-	}
-	return c
-}
-
-func (d *dice) filters(short bool) []api.Filter {
-	many, length, order, fine := 4, 64, 13, d.roll(2) == 1
-	if short {
-		many, length, order = 2, 16, 8
-	}
-	var out []api.Filter
-	for range d.roll(many) {
-		f := api.Filter{Len: d.roll(length), Order: d.roll(order), Fine: fine}
-		f.Down = f.Order > 0 && d.roll(2) == 1
-		for range f.Order {
-			if fine {
-				f.Coefs = append(f.Coefs, d.roll(16)-8)
-			} else {
-				f.Coefs = append(f.Coefs, d.roll(8)-4)
-			}
-		}
-		out = append(out, f)
-	}
-	return out
-}
-
-// frame is one that may be, but for its bits, which are few where most is.
-func (d *dice) frame(rate, chans, most int) api.Frame {
-	var f api.Frame
-	for range chans {
-		i := d.windows(rate)
-		i.Max = min(i.Max, most)
-		f.Chans = append(f.Chans, d.record(rate, i))
-	}
-	if chans == 2 && d.roll(3) > 0 {
-		f.Common = true
-		f.Chans[1] = d.record(rate, info.Twin(f.Chans[0].Info))
-		f.Mask = d.roll(3)
-	}
-	if f.Mask == 1 {
-		for range f.Chans[0].Info.Groups {
-			var l []bool
-			for range f.Chans[0].Info.Max {
-				l = append(l, d.roll(2) == 1)
-			}
-			f.Bands = append(f.Bands, l)
-		}
-	}
-	if d.roll(2) == 1 {
-		f.Fill = make([]byte, []int{1, 2, 14, 15, 16, 29}[d.roll(6)])
-		for n := range f.Fill {
-			f.Fill[n] = byte(d.roll(256))
-		}
-	}
-	return f
-}
+// dice are those of sample, with small frames.
+type dice struct{ sample.Dice }
 
 // small is a frame that may be, with its bits.
 func (d *dice) small(c api.Config) api.Frame {
 	for {
-		f := d.frame(c.Rate, c.Chans, 1+d.roll(12))
+		f := d.Frame(c.Rate, c.Chans, 1+d.Roll(12))
 		if raw.Check(c, f) == api.OK {
 			return f
 		}
@@ -194,15 +77,15 @@ func same(a, b [][]int) bool {
 }
 
 func TestPlay(t *testing.T) {
-	d := dice(1)
+	d := dice{1}
 	for n := range 60 {
 		c := api.Config{Rate: n % 12, Chans: 1 + n%2, Crc: n%3 == 0, Bits: -n}
 		var l []api.Slot
 		for range 4 {
-			for range d.roll(4) {
-				l = append(l, api.Slot{At: -5, Len: d.roll(9), Frame: d.small(c)})
+			for range d.Roll(4) {
+				l = append(l, api.Slot{At: -5, Len: d.Roll(9), Frame: d.small(c)})
 			}
-			for range []int{0, 1, 1, 2, 2, 3, 5, 12}[d.roll(8)] {
+			for range []int{0, 1, 1, 2, 2, 3, 5, 12}[d.Roll(8)] {
 				l = append(l, api.Slot{Lost: true})
 			}
 		}
@@ -321,20 +204,20 @@ func TestMany(t *testing.T) {
 
 // TestDecode holds any bytes: they are what is found in them, played.
 func TestDecode(t *testing.T) {
-	d := dice(5)
+	d := dice{5}
 	for n := range 40 {
 		c := api.Config{Rate: n % 12, Chans: 1 + n%2, Crc: n%3 > 0}
 		var b []byte
 		for range 8 {
-			f, _ := adts.Write(c, d.roll(2048), d.small(c))
-			switch d.roll(5) {
+			f, _ := adts.Write(c, d.Roll(2048), d.small(c))
+			switch d.Roll(5) {
 			case 0:
-				f[d.roll(len(f))] ^= byte(1 << d.roll(8))
+				f[d.Roll(len(f))] ^= byte(1 << d.Roll(8))
 			case 1:
-				f = f[:d.roll(len(f))]
+				f = f[:d.Roll(len(f))]
 			case 2:
-				for range d.roll(20) {
-					b = append(b, byte(d.roll(256)))
+				for range d.Roll(20) {
+					b = append(b, byte(d.Roll(256)))
 				}
 			}
 			b = append(b, f...)
@@ -353,7 +236,7 @@ func TestDecode(t *testing.T) {
 
 // TestHurt holds W4: one frame with a sum is hurt, that one is lost, and behind two that are not all is as it was.
 func TestHurt(t *testing.T) {
-	d := dice(9)
+	d := dice{9}
 	for n := range 12 {
 		c := api.Config{Rate: n % 12, Chans: 1 + n%2, Crc: true, Bits: 400}
 		var turns []api.Turn
@@ -361,12 +244,12 @@ func TestHurt(t *testing.T) {
 			turn := api.Turn{}
 			for range c.Chans {
 				pcm := make([]int, 256)
-				size := 1 + d.roll(20000)
+				size := 1 + d.Roll(20000)
 				for at := range pcm {
-					if at%64 == 0 && d.roll(5) == 0 {
-						size = 1 + d.roll(30000)
+					if at%64 == 0 && d.Roll(5) == 0 {
+						size = 1 + d.Roll(30000)
 					}
-					pcm[at] = d.roll(2*size) - size
+					pcm[at] = d.Roll(2*size) - size
 				}
 				turn.Pcm = append(turn.Pcm, pcm)
 			}
@@ -382,12 +265,12 @@ func TestHurt(t *testing.T) {
 			t.Fatal(n, e)
 		}
 		slots, _ := sync.Scan(c, b)
-		which := 3 + d.roll(3)
+		which := 3 + d.Roll(3)
 		first, last := 8*(slots[which].At+9), 8*(slots[which].At+slots[which].Len)
-		at := first + d.roll(last-first)
+		at := first + d.Roll(last-first)
 		hurt := bytes.Clone(b)
 		for i := at; i < min(at+16, last); i++ {
-			if i == at || d.roll(2) == 1 {
+			if i == at || d.Roll(2) == 1 {
 				hurt[i/8] ^= 128 >> (i % 8)
 			}
 		}

@@ -14,98 +14,11 @@ import (
 	"reedpipe/ics"
 	"reedpipe/info"
 	"reedpipe/lane"
+	"reedpipe/sample"
 	"reedpipe/scale"
 	"reedpipe/sect"
 	"reedpipe/tnsbits"
 )
-
-// dice are numbers without a plain pattern.
-type dice uint32
-
-func (d *dice) roll(n int) int {
-	*d = *d*1664525 + 1013904223
-	return int(*d>>8) % n
-}
-
-func (d *dice) windows(rate int) api.Info {
-	i := api.Info{Seq: uint8(d.roll(4)), Shape: uint8(d.roll(2)), Groups: []int{1}}
-	most, _ := band.Many(rate, i.Seq == api.Shorts)
-	i.Max = d.roll(most + 1)
-	if i.Seq == api.Shorts {
-		i.Groups = nil
-		for left := 8; left > 0; {
-			n := 1 + d.roll(left)
-			i.Groups = append(i.Groups, n)
-			left -= n
-		}
-	}
-	return i
-}
-
-var limits = []int{0, 1, 1, 2, 2, 4, 4, 7, 7, 12, 12, 8191, 0, 0}
-
-// record is one that may be, of these windows.
-func (d *dice) record(rate int, i api.Info) api.Chan {
-	c := api.Chan{Gain: d.roll(256), Info: i, Lines: make([]int, 256)}
-	step, noise := c.Gain, d.roll(512)
-	o, _ := band.Offsets(rate, i.Seq == api.Shorts)
-	w := 0
-	for _, many := range i.Groups {
-		var l []api.Section
-		var steps []int
-		for left := i.Max; left > 0; {
-			s := api.Section{Book: d.roll(13), Len: 1 + d.roll(left)}
-			if s.Book == 12 {
-				s.Book = 13
-			}
-			for b := i.Max - left; b < i.Max-left+s.Len; b++ {
-				switch s.Book {
-				case 0:
-					steps = append(steps, 0)
-				case 13:
-					noise = max(0, min(511, noise+d.roll(121)-60))
-					steps = append(steps, noise)
-				default:
-					step = max(0, min(255, step+d.roll(121)-60))
-					steps = append(steps, step)
-				}
-				for v := w; v < w+many; v++ {
-					for n := o[b]; n < o[b+1]; n++ {
-						c.Lines[32*v+n] = d.roll(2*limits[s.Book]+1) - limits[s.Book]
-					}
-				}
-			}
-			l, left = append(l, s), left-s.Len
-		}
-		c.Sections, c.Steps = append(c.Sections, l), append(c.Steps, steps)
-		w += many
-	}
-	for range w {
-		c.Tns = append(c.Tns, d.filters(i.Seq == api.Shorts))
-	}
-	return c
-}
-
-func (d *dice) filters(short bool) []api.Filter {
-	many, length, order, fine := 4, 64, 13, d.roll(2) == 1
-	if short {
-		many, length, order = 2, 16, 8
-	}
-	var out []api.Filter
-	for range d.roll(many) {
-		f := api.Filter{Len: d.roll(length), Order: d.roll(order), Fine: fine}
-		f.Down = f.Order > 0 && d.roll(2) == 1
-		for range f.Order {
-			if fine {
-				f.Coefs = append(f.Coefs, d.roll(16)-8)
-			} else {
-				f.Coefs = append(f.Coefs, d.roll(8)-4)
-			}
-		}
-		out = append(out, f)
-	}
-	return out
-}
 
 // plain are a channel's bits as chapter 22 tells them; lineBits are the last of them.
 func plain(rate int, c api.Chan, common bool) (all, lineBits []byte) {
@@ -153,11 +66,11 @@ func plain(rate int, c api.Chan, common bool) (all, lineBits []byte) {
 }
 
 func TestBits(t *testing.T) {
-	d := dice(5)
+	d := sample.Dice(5)
 	for n := range 500 {
 		rate, common := n%12, n%3 == 0
-		i := d.windows(rate)
-		c := d.record(rate, i)
+		i := d.Windows(rate)
+		c := d.Record(rate, i)
 		want, _ := plain(rate, c, common)
 		want = append([]byte{7, 1}, want...)
 		got, e := ics.Put([]byte{7, 1}, rate, c, common)
@@ -175,7 +88,7 @@ func TestBits(t *testing.T) {
 		if e := lane.Check(rate, back); e != api.OK {
 			t.Fatal(n, e)
 		}
-		for cut := 2; cut < len(want); cut += 1 + d.roll(len(want)) {
+		for cut := 2; cut < len(want); cut += 1 + d.Roll(len(want)) {
 			if back, next, e := ics.Get(want[:cut], 2, rate, common, given); e != api.ErrEnd || next != 0 || !lane.Same(back, api.Chan{}) {
 				t.Fatal(n, cut, next, e)
 			}
@@ -298,9 +211,9 @@ func TestGetErrors(t *testing.T) {
 
 // TestMemory holds P22.2.
 func TestMemory(t *testing.T) {
-	d := dice(8)
+	d := sample.Dice(8)
 	i := api.Info{Seq: 2, Max: 3, Groups: []int{3, 5}}
-	c := d.record(2, i)
+	c := d.Record(2, i)
 	was := lane.Twin(c)
 	room := bytes.Repeat([]byte{1, 0}, 3000)
 	full := bytes.Clone(room)
@@ -317,19 +230,19 @@ func TestMemory(t *testing.T) {
 
 // TestGrammar holds P22.3: what is got is put as these bits.
 func TestGrammar(t *testing.T) {
-	d := dice(6)
+	d := sample.Dice(6)
 	many := 0
 	for n := range 20000 {
 		rate := n % 12
-		i := d.windows(rate)
+		i := d.Windows(rate)
 		i.Max = min(i.Max, 2)
 		b := make([]byte, 700)
 		for at := range b {
-			b[at] = byte(d.roll(2))
+			b[at] = byte(d.Roll(2))
 		}
 		if n%2 == 0 {
 			// Of a book that may be, and a length that fits, more bits are right.
-			copy(b[8:], digits(d.roll(12), 4))
+			copy(b[8:], digits(d.Roll(12), 4))
 			copy(b[12:], digits(i.Max, 5))
 		}
 		c, next, e := ics.Get(b, 0, rate, true, i)
@@ -348,9 +261,9 @@ func TestGrammar(t *testing.T) {
 
 // TestCommon holds that common bits are those of a channel's own without its windows'.
 func TestCommon(t *testing.T) {
-	d := dice(3)
+	d := sample.Dice(3)
 	for n := range 60 {
-		c := d.record(n%12, d.windows(n%12))
+		c := d.Record(n%12, d.Windows(n%12))
 		own, _ := ics.Put(nil, n%12, c, false)
 		common, _ := ics.Put(nil, n%12, c, true)
 		windows, _ := info.Put(nil, n%12, c.Info)

@@ -6,104 +6,16 @@ import (
 	"testing"
 
 	"reedpipe/api"
-	"reedpipe/band"
 	"reedpipe/info"
 	"reedpipe/lane"
+	"reedpipe/sample"
 )
 
-// dice are numbers without a plain pattern.
-type dice uint32
-
-func (d *dice) roll(n int) int {
-	*d = *d*1664525 + 1013904223
-	return int(*d>>8) % n
-}
-
-func (d *dice) windows(rate int) api.Info {
-	i := api.Info{Seq: uint8(d.roll(4)), Shape: uint8(d.roll(2)), Groups: []int{1}}
-	most, _ := band.Many(rate, i.Seq == api.Shorts)
-	i.Max = d.roll(most + 1)
-	if i.Seq == api.Shorts {
-		i.Groups = nil
-		for left := 8; left > 0; {
-			n := 1 + d.roll(left)
-			i.Groups = append(i.Groups, n)
-			left -= n
-		}
-	}
-	return i
-}
-
-var limits = []int{0, 1, 1, 2, 2, 4, 4, 7, 7, 12, 12, 8191, 0, 0}
-
-// record is one that may be, of these windows.
-func (d *dice) record(rate int, i api.Info) api.Chan {
-	c := api.Chan{Gain: d.roll(256), Info: i, Lines: make([]int, 256)}
-	step, noise := c.Gain, d.roll(512)
-	o, _ := band.Offsets(rate, i.Seq == api.Shorts)
-	w := 0
-	for _, many := range i.Groups {
-		var l []api.Section
-		var steps []int
-		for left := i.Max; left > 0; {
-			s := api.Section{Book: d.roll(13), Len: 1 + d.roll(left)}
-			if s.Book == 12 {
-				s.Book = 13
-			}
-			for b := i.Max - left; b < i.Max-left+s.Len; b++ {
-				switch s.Book {
-				case 0:
-					steps = append(steps, 0)
-				case 13:
-					noise = max(0, min(511, noise+d.roll(121)-60))
-					steps = append(steps, noise)
-				default:
-					step = max(0, min(255, step+d.roll(121)-60))
-					steps = append(steps, step)
-				}
-				for v := w; v < w+many; v++ {
-					for n := o[b]; n < o[b+1]; n++ {
-						c.Lines[32*v+n] = d.roll(2*limits[s.Book]+1) - limits[s.Book]
-					}
-				}
-			}
-			l, left = append(l, s), left-s.Len
-		}
-		c.Sections, c.Steps = append(c.Sections, l), append(c.Steps, steps)
-		w += many
-	}
-	for range w {
-		c.Tns = append(c.Tns, d.filters(i.Seq == api.Shorts))
-	}
-	return c
-}
-
-func (d *dice) filters(short bool) []api.Filter {
-	many, length, order, fine := 4, 64, 13, d.roll(2) == 1
-	if short {
-		many, length, order = 2, 16, 8
-	}
-	var out []api.Filter
-	for range d.roll(many) {
-		f := api.Filter{Len: d.roll(length), Order: d.roll(order), Fine: fine}
-		f.Down = f.Order > 0 && d.roll(2) == 1
-		for range f.Order {
-			if fine {
-				f.Coefs = append(f.Coefs, d.roll(16)-8)
-			} else {
-				f.Coefs = append(f.Coefs, d.roll(8)-4)
-			}
-		}
-		out = append(out, f)
-	}
-	return out
-}
-
 func TestMay(t *testing.T) {
-	d := dice(1)
+	d := sample.Dice(1)
 	for n := range 4000 {
 		rate := n % 12
-		c := d.record(rate, d.windows(rate))
+		c := d.Record(rate, d.Windows(rate))
 		if e := lane.Check(rate, c); e != api.OK {
 			t.Fatal(n, e, c)
 		}
@@ -114,7 +26,7 @@ func TestMay(t *testing.T) {
 		}
 		// P18.4: any line with its sign turned, or away; no filters; no lines.
 		for range 10 {
-			at := d.roll(256)
+			at := d.Roll(256)
 			c.Lines[at] = -c.Lines[at]
 			if e := lane.Check(rate, c); e != api.OK {
 				t.Error(n, at, e)
@@ -259,6 +171,7 @@ func TestMayNot(t *testing.T) {
 
 // TestBooks holds a line of each size against each book.
 func TestBooks(t *testing.T) {
+	limits := []int{0, 1, 1, 2, 2, 4, 4, 7, 7, 12, 12, 8191, 0, 0}
 	for book, limit := range limits {
 		if book == 12 {
 			continue
@@ -287,9 +200,9 @@ func TestBooks(t *testing.T) {
 }
 
 func TestZero(t *testing.T) {
-	d := dice(3)
+	d := sample.Dice(3)
 	for n := range 300 {
-		i := d.windows(n % 12)
+		i := d.Windows(n % 12)
 		c, e := lane.Zero(n%12, i)
 		if e != api.OK || c.Gain != 0 || !info.Same(c.Info, i) || len(c.Sections) != len(i.Groups) || len(c.Steps) != len(i.Groups) || !slices.Equal(c.Lines, make([]int, 256)) {
 			t.Fatal(i, c, e)
@@ -356,9 +269,9 @@ func TestBook(t *testing.T) {
 }
 
 func TestSame(t *testing.T) {
-	d := dice(9)
+	d := sample.Dice(9)
 	for n := range 200 {
-		c := d.record(n%12, d.windows(n%12))
+		c := d.Record(n%12, d.Windows(n%12))
 		b := lane.Twin(c)
 		if !lane.Same(c, b) || !lane.Same(b, c) {
 			t.Fatal(n)

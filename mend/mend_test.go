@@ -10,126 +10,8 @@ import (
 	"reedpipe/lane"
 	"reedpipe/mend"
 	"reedpipe/raw"
+	"reedpipe/sample"
 )
-
-// dice are numbers without a plain pattern.
-type dice uint32
-
-func (d *dice) roll(n int) int {
-	*d = *d*1664525 + 1013904223
-	return int(*d>>8) % n
-}
-
-func (d *dice) windows(rate int) api.Info {
-	i := api.Info{Seq: uint8(d.roll(4)), Shape: uint8(d.roll(2)), Groups: []int{1}}
-	most, _ := band.Many(rate, i.Seq == api.Shorts)
-	i.Max = d.roll(most + 1)
-	if i.Seq == api.Shorts {
-		i.Groups = nil
-		for left := 8; left > 0; {
-			n := 1 + d.roll(left)
-			i.Groups = append(i.Groups, n)
-			left -= n
-		}
-	}
-	return i
-}
-
-var limits = []int{0, 1, 1, 2, 2, 4, 4, 7, 7, 12, 12, 8191, 0, 0}
-
-// record is one that may be, of these windows.
-func (d *dice) record(rate int, i api.Info) api.Chan {
-	c := api.Chan{Gain: d.roll(256), Info: i, Lines: make([]int, 256)}
-	step, noise := c.Gain, d.roll(512)
-	o, _ := band.Offsets(rate, i.Seq == api.Shorts)
-	w := 0
-	for _, many := range i.Groups {
-		var l []api.Section
-		var steps []int
-		for left := i.Max; left > 0; {
-			s := api.Section{Book: d.roll(13), Len: 1 + d.roll(left)}
-			if s.Book == 12 {
-				s.Book = 13
-			}
-			for b := i.Max - left; b < i.Max-left+s.Len; b++ {
-				switch s.Book {
-				case 0:
-					steps = append(steps, 0)
-				case 13:
-					noise = max(0, min(511, noise+d.roll(121)-60))
-					steps = append(steps, noise)
-				default:
-					step = max(0, min(255, step+d.roll(121)-60))
-					steps = append(steps, step)
-				}
-				for v := w; v < w+many; v++ {
-					for n := o[b]; n < o[b+1]; n++ {
-						c.Lines[32*v+n] = d.roll(2*limits[s.Book]+1) - limits[s.Book]
-					}
-				}
-			}
-			l, left = append(l, s), left-s.Len
-		}
-		c.Sections, c.Steps = append(c.Sections, l), append(c.Steps, steps)
-		w += many
-	}
-	for range w {
-		c.Tns = append(c.Tns, d.filters(i.Seq == api.Shorts))
-	}
-	return c
-}
-
-func (d *dice) filters(short bool) []api.Filter {
-	many, length, order, fine := 4, 64, 13, d.roll(2) == 1
-	if short {
-		many, length, order = 2, 16, 8
-	}
-	var out []api.Filter
-	for range d.roll(many) {
-		f := api.Filter{Len: d.roll(length), Order: d.roll(order), Fine: fine}
-		f.Down = f.Order > 0 && d.roll(2) == 1
-		for range f.Order {
-			if fine {
-				f.Coefs = append(f.Coefs, d.roll(16)-8)
-			} else {
-				f.Coefs = append(f.Coefs, d.roll(8)-4)
-			}
-		}
-		out = append(out, f)
-	}
-	return out
-}
-
-// frame is one that may be, but for its bits, which are few where most is.
-func (d *dice) frame(rate, chans, most int) api.Frame {
-	var f api.Frame
-	for range chans {
-		i := d.windows(rate)
-		i.Max = min(i.Max, most)
-		f.Chans = append(f.Chans, d.record(rate, i))
-	}
-	if chans == 2 && d.roll(3) > 0 {
-		f.Common = true
-		f.Chans[1] = d.record(rate, info.Twin(f.Chans[0].Info))
-		f.Mask = d.roll(3)
-	}
-	if f.Mask == 1 {
-		for range f.Chans[0].Info.Groups {
-			var l []bool
-			for range f.Chans[0].Info.Max {
-				l = append(l, d.roll(2) == 1)
-			}
-			f.Bands = append(f.Bands, l)
-		}
-	}
-	if d.roll(2) == 1 {
-		f.Fill = make([]byte, []int{1, 2, 14, 15, 16, 29}[d.roll(6)])
-		for n := range f.Fill {
-			f.Fill[n] = byte(d.roll(256))
-		}
-	}
-	return f
-}
 
 // goesOn tells whether a frame may be, and follows.
 func goesOn(c api.Config, was []uint8, f api.Frame) bool {
@@ -328,17 +210,17 @@ func TestFill(t *testing.T) {
 
 // TestAny holds P24.3 for frames that may be, and for ones in which something is odd.
 func TestAny(t *testing.T) {
-	d := dice(1)
+	d := sample.Dice(1)
 	kept := 0
 	for n := range 400 {
 		c := api.Config{Rate: n % 12, Chans: 1 + n%2}
-		was := []uint8{uint8(d.roll(4)), uint8(d.roll(4))}[:c.Chans]
-		f := d.frame(c.Rate, 1+d.roll(2), 1+n%5)
-		if d.roll(3) == 0 {
-			f.Chans[0].Lines[d.roll(256)] += d.roll(3)
+		was := []uint8{uint8(d.Roll(4)), uint8(d.Roll(4))}[:c.Chans]
+		f := d.Frame(c.Rate, 1+d.Roll(2), 1+n%5)
+		if d.Roll(3) == 0 {
+			f.Chans[0].Lines[d.Roll(256)] += d.Roll(3)
 		}
-		if d.roll(3) == 0 {
-			f.Mask = d.roll(5) - 1
+		if d.Roll(3) == 0 {
+			f.Mask = d.Roll(5) - 1
 		}
 		got, e := mend.Mend(c, was, f)
 		if e != api.OK || !goesOn(c, was, got) {

@@ -17,39 +17,21 @@ import (
 	"reedpipe/pick"
 	"reedpipe/quant"
 	"reedpipe/raw"
+	"reedpipe/sample"
 	"reedpipe/tns"
 )
 
-type dice uint32
-
-func (d *dice) roll(n int) int {
-	*d = *d*1664525 + 1013904223
-	return int(*d>>8) % n
-}
-
-func (d *dice) windows(rate int) api.Info {
-	i := api.Info{Seq: uint8(d.roll(4)), Shape: uint8(d.roll(2)), Groups: []int{1}}
-	most, _ := band.Many(rate, i.Seq == api.Shorts)
-	i.Max = d.roll(most + 1)
-	if i.Seq == api.Shorts {
-		i.Groups = nil
-		for left := 8; left > 0; {
-			n := 1 + d.roll(left)
-			i.Groups = append(i.Groups, n)
-			left -= n
-		}
-	}
-	return i
-}
+// dice are those of sample, with lines and sounds of their own.
+type dice struct{ sample.Dice }
 
 // lines are of many sizes, with runs of noughts, and runs of the same size.
 func (d *dice) lines(most int) []int {
 	out := make([]int, 256)
 	for n := 0; n < 256; {
-		size := []int{0, 0, 1, 1, 2, 4, 7, 12, 20, 8191, most}[d.roll(11)]
+		size := []int{0, 0, 1, 1, 2, 4, 7, 12, 20, 8191, most}[d.Roll(11)]
 		size = min(size, most)
-		for end := min(256, n+1+d.roll(20)); n < end; n++ {
-			out[n] = d.roll(2*size+1) - size
+		for end := min(256, n+1+d.Roll(20)); n < end; n++ {
+			out[n] = d.Roll(2*size+1) - size
 		}
 	}
 	return out
@@ -80,16 +62,16 @@ func TestAttack(t *testing.T) {
 		}
 		return false
 	}
-	d := dice(1)
+	d := dice{1}
 	found := 0
 	for n := range 3000 {
 		pcm := make([]int, 256)
-		size := 1 + d.roll(400)
+		size := 1 + d.Roll(400)
 		for at := range pcm {
-			if at%32 == 0 && d.roll(6) == 0 {
-				size = min(32767, size*(1+d.roll(9))/2+1)
+			if at%32 == 0 && d.Roll(6) == 0 {
+				size = min(32767, size*(1+d.Roll(9))/2+1)
 			}
-			pcm[at] = d.roll(2*size+1) - size
+			pcm[at] = d.Roll(2*size+1) - size
 		}
 		want := loud(pcm)
 		if want {
@@ -251,12 +233,12 @@ func same(a, b [][]api.Section) bool {
 }
 
 func TestSections(t *testing.T) {
-	d := dice(2)
+	d := dice{2}
 	all := books()
 	for n := range 120 {
 		rate := n % 12
-		i := d.windows(rate)
-		q := d.lines([]int{1, 2, 5, 15, 40, 8191}[d.roll(6)])
+		i := d.Windows(rate)
+		q := d.lines([]int{1, 2, 5, 15, 40, 8191}[d.Roll(6)])
 		got, e := pick.Sections(rate, i, q)
 		if e != api.OK || len(got) != len(i.Groups) {
 			t.Fatal(n, got, e)
@@ -290,22 +272,22 @@ func TestSections(t *testing.T) {
 }
 
 func TestBits(t *testing.T) {
-	d := dice(3)
+	d := dice{3}
 	all := books()
 	for n := range 300 {
 		rate := n % 12
-		i := d.windows(rate)
-		q := d.lines([]int{1, 2, 5, 15, 8191}[d.roll(5)])
+		i := d.Windows(rate)
+		q := d.lines([]int{1, 2, 5, 15, 8191}[d.Roll(5)])
 		var l [][]api.Section
 		want := 0
 		for g := range i.Groups {
 			var sections []api.Section
 			for from := 0; from < i.Max; {
-				s := api.Section{Book: d.roll(14), Len: 1 + d.roll(i.Max-from)}
+				s := api.Section{Book: d.Roll(14), Len: 1 + d.Roll(i.Max-from)}
 				if s.Book == 12 {
 					s.Book = 11
 				}
-				if d.roll(2) == 0 {
+				if d.Roll(2) == 0 {
 					s.Book = 11
 				}
 				sections = append(sections, s)
@@ -418,12 +400,12 @@ func channel(rate int, i api.Info, x []int, base int) api.Chan {
 }
 
 func TestChan(t *testing.T) {
-	d := dice(4)
+	d := dice{4}
 	for n := range 150 {
 		rate := n % 12
-		i := d.windows(rate)
+		i := d.Windows(rate)
 		x := d.lines([]int{0, 9, 300, 99999, api.MaxLine}[n%5])
-		base := []int{0, 255, 60, 100, 140, 200}[d.roll(6)]
+		base := []int{0, 255, 60, 100, 140, 200}[d.Roll(6)]
 		was := slices.Clone(x)
 		got, e := pick.Chan(rate, i, x, base)
 		if e != api.OK || !lane.Same(got, channel(rate, i, x, base)) {
@@ -569,13 +551,13 @@ func (d *dice) sound(kind int, i []api.Info) [][]int {
 		for at := range pcm {
 			switch kind % 5 {
 			case 0:
-				pcm[at] = d.roll(65536) - 32768
+				pcm[at] = d.Roll(65536) - 32768
 			case 1:
 				pcm[at] = (at%40 - 20) * 900
 			case 2:
-				pcm[at] = d.roll(9) - 4
+				pcm[at] = d.Roll(9) - 4
 			case 3:
-				pcm[at] = int(20000*math.Sin(float64(at*at)/3000)) + n*d.roll(500)
+				pcm[at] = int(20000*math.Sin(float64(at*at)/3000)) + n*d.Roll(500)
 			}
 			if kind%5 == 4 && at == 300 {
 				pcm[at] = 32767
@@ -588,13 +570,13 @@ func (d *dice) sound(kind int, i []api.Info) [][]int {
 }
 
 func TestFrame(t *testing.T) {
-	d := dice(5)
+	d := dice{5}
 	masks, filters := map[int]int{}, map[int]int{}
 	for n := range 70 {
-		c := api.Config{Rate: n % 12, Chans: 1 + d.roll(2), Crc: n%2 == 0, Bits: -n}
+		c := api.Config{Rate: n % 12, Chans: 1 + d.Roll(2), Crc: n%2 == 0, Bits: -n}
 		var i []api.Info
 		for range c.Chans {
-			i = append(i, d.windows(c.Rate))
+			i = append(i, d.Windows(c.Rate))
 		}
 		if c.Chans == 2 && n%4 > 0 {
 			i[1] = info.Twin(i[0])
@@ -605,7 +587,7 @@ func TestFrame(t *testing.T) {
 				x[at] = d.lines(api.MaxLine)
 			}
 		}
-		budget := []int{0, 60, 400, 700, 1200, 1536, 3072, 99999}[d.roll(8)]
+		budget := []int{0, 60, 400, 700, 1200, 1536, 3072, 99999}[d.Roll(8)]
 		was := [][]int{slices.Clone(x[0]), slices.Clone(x[len(x)-1])}
 		got, e := pick.Frame(c, i, x, budget)
 		if e != api.OK || !slices.Equal(x[0], was[0]) || !slices.Equal(x[len(x)-1], was[1]) {
