@@ -169,6 +169,41 @@ func TestMayNot(t *testing.T) {
 	}
 }
 
+// TestQuiet holds what of sections and steps may not be in a record of nothing, where nothing else gives it away.
+func TestQuiet(t *testing.T) {
+	for n, change := range []func(c *api.Chan){
+		func(c *api.Chan) { c.Gain = 256 },
+		func(c *api.Chan) { c.Gain = -1 },
+		func(c *api.Chan) { c.Sections[0][0].Book = 12 },
+		func(c *api.Chan) { c.Sections[0][0].Book = 14 },
+		func(c *api.Chan) { c.Sections[0][0].Book = -1 },
+		func(c *api.Chan) { c.Sections[0][0].Len = 2 },
+		func(c *api.Chan) { c.Sections[0] = nil },
+		func(c *api.Chan) { c.Sections[0] = append(c.Sections[0], api.Section{}) },
+		func(c *api.Chan) { c.Sections = nil },
+		func(c *api.Chan) {
+			c.Sections[0], c.Steps[0], c.Sections = nil, nil, append(c.Sections, nil)
+			c.Info.Max = 0
+		},
+		func(c *api.Chan) { c.Sections, c.Steps[0] = nil, nil; c.Info.Max = 0 },
+		func(c *api.Chan) { c.Sections[0], c.Steps = nil, nil; c.Info.Max = 0 },
+		func(c *api.Chan) { c.Sections[0][0].Book, c.Steps[0] = 13, []int{0, 61, 61} },
+		func(c *api.Chan) { c.Sections[0][0].Book, c.Steps[0] = 13, []int{61, 0, 0} },
+		func(c *api.Chan) { c.Sections[0][0].Book, c.Steps[0] = 13, []int{60, 0, 61} },
+	} {
+		c, _ := lane.Zero(0, api.Info{Max: 3, Groups: []int{1}})
+		change(&c)
+		if e := lane.Check(0, c); e != api.ErrBad {
+			t.Error(n, e)
+		}
+	}
+	c, _ := lane.Zero(0, api.Info{Max: 3, Groups: []int{1}})
+	c.Sections[0][0].Book, c.Steps[0] = 13, []int{0, 60, 0}
+	if e := lane.Check(0, c); e != api.OK {
+		t.Error(e)
+	}
+}
+
 // TestBooks holds a line of each size against each book.
 func TestBooks(t *testing.T) {
 	limits := []int{0, 1, 1, 2, 2, 4, 4, 7, 7, 12, 12, 8191, 0, 0}
